@@ -145,12 +145,7 @@ func (s *scanner) add(t api.Token) {
 func (s *scanner) cutBlanks() { s.pass(isBlank) }
 
 func (s *scanner) cutName() {
-	name := s.pass(isInName)
-	if s.words[name] {
-		s.add(api.Token{Kind: api.TkKey, S: name})
-		return
-	}
-	s.add(api.Token{Kind: api.TkName, S: name})
+	s.addAs(api.TkName, s.pass(isInName), s.words, api.TkKey)
 }
 
 func (s *scanner) cutNumber() {
@@ -168,12 +163,15 @@ func (s *scanner) cutNumber() {
 }
 
 func (s *scanner) cutSymbols() {
-	name := s.pass(isSymbol)
-	if s.signs[name] {
-		s.add(api.Token{Kind: api.TkSign, S: name})
-		return
+	s.addAs(api.TkSym, s.pass(isSymbol), s.signs, api.TkSign)
+}
+
+// addAs adds a token of a kind, or, if what has been read is listed, of another one.
+func (s *scanner) addAs(kind int, read string, listed map[string]bool, kindOfListed int) {
+	if listed[read] {
+		kind = kindOfListed
 	}
-	s.add(api.Token{Kind: api.TkSym, S: name})
+	s.add(api.Token{Kind: kind, S: read})
 }
 
 // cutSign cuts what begins with a byte that is no symbol: so does each sign that it finds.

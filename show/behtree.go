@@ -236,9 +236,7 @@ func (m *behaviours) some(b api.Beh) api.Node {
 
 func (m *behaviours) call(b api.Beh) api.Node {
 	name := at(&m.terms, m.procs, b.N).Name
-	if !areNames([]string{name}) {
-		throw(api.ErrNames)
-	}
+	m.need(areNames([]string{name}))
 	gates := m.list(each(b.Gates, m.seenGate)...)
 	values := m.list(m.values(b.T)...)
 	return m.named(api.NdCall, name, gates, values)

@@ -6,6 +6,7 @@ import "madrigal/api"
 type specs struct{ behaviours }
 
 func (m *specs) specification(s api.Spec) api.Node {
+	m.need(areNames(each(s.Procs, func(p api.Proc) string { return p.Name })))
 	gates := m.names(s.Gates)
 	params := m.list()
 	data := m.list(m.data(s.Type))

@@ -156,7 +156,7 @@ func TestBehRefused(t *testing.T) {
 	}
 }
 
-// P3.4: names that are none, ahead of all that is wrong in a behaviour.
+// P3.4: names that are none, ahead of all that is wrong in a behaviour. The name of a process is a part of what calls it.
 func TestBehNames(t *testing.T) {
 	var many []string
 	for i := range 65 {
@@ -172,14 +172,11 @@ func TestBehNames(t *testing.T) {
 		err         api.Errno
 	}{
 		{simple(), nil, nil, api.Beh{}, api.ErrBeh}, {simple(), []string{"a", "a"}, nil, api.Beh{}, api.ErrNames}, {simple(), []string{"+"}, nil, api.Beh{}, api.ErrNames}, {simple(), []string{"i"}, nil, halt(), api.ErrNames}, {simple(), many[:32], many[:64], halt(), api.OK}, {simple(), many[:33], nil, halt(), api.ErrNames}, {simple(), nil, many, halt(), api.ErrNames}, {simple(), nil, []string{"x", "x"}, halt(), api.ErrNames}, {simple(), nil, []string{"c"}, halt(), api.ErrNames}, {simple(), nil, []string{"if"}, halt(), api.ErrNames}, {simple(), []string{"c", "if"}, []string{"a"}, halt(), api.OK}, {simple(), []string{"a"}, []string{"a"}, act(0, halt(), out(v(0))), api.OK},
-		{odd, nil, nil, halt(), api.OK}, {odd, nil, nil, call, api.ErrNames},
+		{odd, nil, nil, halt(), api.OK}, {odd, nil, nil, call, api.ErrBeh}, {odd, []string{"i"}, nil, call, api.ErrNames},
 	} {
 		if n, err := show.BehTree(x.s, x.gates, x.vars, x.b); err != x.err || (n.Kind == 0) == (err == api.OK) {
 			t.Errorf("BehTree, %d: %v %d", i, n, err)
 		}
-	}
-	if n, err := show.SpecTree(odd); err != api.ErrNames || n.Kind != 0 {
-		t.Errorf("SpecTree: %v %d", n, err)
 	}
 }
 
@@ -246,6 +243,7 @@ func TestSpecRefused(t *testing.T) {
 	for i, change := range []func(s *api.Spec){
 		func(s *api.Spec) { s.Type.Sig.Ops = append(s.Type.Sig.Ops, api.Op{Name: "d", Res: 2}) }, func(s *api.Spec) { s.Type.Sig.Ops = append(s.Type.Sig.Ops, api.Op{Name: "d", Args: []int{-1}}) }, func(s *api.Spec) { s.Main = api.Beh{} },
 		func(s *api.Spec) { s.Type.Eqns = []api.Eqn{{A: v(0), B: o(0)}} }, func(s *api.Spec) { s.Type.Eqns = []api.Eqn{{A: o(0), B: v(0)}} }, func(s *api.Spec) { s.Type.Eqns = []api.Eqn{{A: o(0)}} }, func(s *api.Spec) { s.Type.Eqns = []api.Eqn{{Vars: []int{2}, A: o(0), B: o(0)}} }, func(s *api.Spec) { s.Type.Eqns = []api.Eqn{{A: o(0), B: o(0), Conds: []api.Pair{{}}}} }, func(s *api.Spec) { s.Type.Eqns = []api.Eqn{{Vars: make([]int, 65), A: o(0), B: o(0)}} },
+		func(s *api.Spec) { s.Procs[1].Name = "" }, func(s *api.Spec) { s.Procs[1].Name = "stop" }, func(s *api.Spec) { s.Procs[0].Name = "p#2" }, func(s *api.Spec) { s.Procs[0].Name = "+" }, func(s *api.Spec) { s.Procs[0].Name = "a b" }, func(s *api.Spec) { s.Procs[0].Name = strings.Repeat("p", api.MaxName+1) },
 		func(s *api.Spec) { s.Procs[0].Gates = -1 }, func(s *api.Spec) { s.Procs[0].Gates = 33 }, func(s *api.Spec) { s.Procs[0].Gates = 1 << 62 }, func(s *api.Spec) { s.Procs[0].Vars = []int{2} }, func(s *api.Spec) { s.Procs[0].Vars = make([]int, 65) }, func(s *api.Spec) { s.Procs[0].Func = api.Func{Ends: true, Sorts: []int{2}} }, func(s *api.Spec) { s.Procs[0].B = api.Beh{} }, func(s *api.Spec) { s.Procs[0].B = act(1, halt()) }, func(s *api.Spec) { s.Procs[0].B = exit(out(v(0))) }, func(s *api.Spec) { s.Main = exit(out(v(0))) }, func(s *api.Spec) { s.Main = act(2, halt()) },
 	} {
 		s := simple()
@@ -258,10 +256,11 @@ func TestSpecRefused(t *testing.T) {
 		}
 	}
 	for i, change := range []func(s *api.Spec){
-		func(s *api.Spec) { s.Gates = []string{"a", "a"} }, func(s *api.Spec) { s.Gates = []string{"a b"} }, func(s *api.Spec) { s.Gates = make([]string, 33) }, func(s *api.Spec) { s.Procs[1].Name = "" }, func(s *api.Spec) { s.Procs[1].Name = "stop" }, func(s *api.Spec) { s.Type.Sig.Sorts[0] = "7" }, func(s *api.Spec) { s.Type.Sig.Ops[0].Name = "07" },
+		func(s *api.Spec) { s.Gates = []string{"a", "a"} }, func(s *api.Spec) { s.Gates = []string{"a b"} }, func(s *api.Spec) { s.Gates = make([]string, 33) }, func(s *api.Spec) { s.Type.Sig.Sorts[0] = "7" }, func(s *api.Spec) { s.Type.Sig.Ops[0].Name = "07" },
 	} {
 		s := simple()
 		change(&s)
+		s.Procs[1].Name = "p#2"
 		s.Main = api.Beh{}
 		if n, err := show.SpecTree(s); err != api.ErrNames || n.Kind != 0 {
 			t.Errorf("SpecTree, %d: %v %d", i, n, err)

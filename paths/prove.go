@@ -5,7 +5,7 @@ import "madrigal/api"
 // duo is a part, and one than which it is greater; or two equal ones, of which the empty proof tells, if there is no a.
 type duo struct{ a, b *part }
 
-// prover finds least proofs: as the first one that comes to mind can have 2 to the power of the depth of terms nodes, where another one has a few.
+// prover finds least proofs (of multisets, those with as many pairs as can be): the first one that comes to mind can have 2 to the power of the depth of terms nodes, where another one has a few.
 type prover struct {
 	*comparison
 	sizes map[pair]int // how many nodes proofs have; maxProof + 1, if they are more
